@@ -700,7 +700,9 @@ func roomyModel() (impl.Model, [][]int) {
 	return modelOf(part(0), rules[:3]...), memory
 }
 
-func TestModelsAreNotChanged(t *testing.T) {
+// checkModelKept calls use with a model and cells of it, and looks for changes of their memory.
+func checkModelKept(t *testing.T, use func(m impl.Model, cells []int)) {
+	t.Helper()
 	m, memory := roomyModel()
 	before := copyModel(m)
 	var memoryBefore [][]int
@@ -710,24 +712,30 @@ func TestModelsAreNotChanged(t *testing.T) {
 	if !impl.ModelValid(m) {
 		t.Fatalf("%v is not valid", m)
 	}
-	from := [4]int{0, 0, 0, 7}
-	for _, cells := range [][]int{from[:3], nil} {
-		impl.ModelValid(m)
-		impl.ModelSame(m, m)
-		impl.FormatModel(m)
-		impl.CellsValid(m, cells)
-		impl.RuleHolds(m, 1, cells)
-		impl.SolvesModel(m, cells)
-		impl.CountModel(m)
-		impl.NextModel(m, cells)
-	}
+	cells := [4]int{0, 0, 0, 7}
+	use(m, cells[:3])
 	rules, rows := m.Rules[:4], m.Rules[1].Rows[:3]
-	if !impl.ModelSame(m, before) || !slices.EqualFunc(memory, memoryBefore, slices.Equal) || from != [4]int{0, 0, 0, 7} {
+	if !impl.ModelSame(m, before) || !slices.EqualFunc(memory, memoryBefore, slices.Equal) || cells != [4]int{0, 0, 0, 7} {
 		t.Error("a function of models changes an argument")
 	}
 	if rules[3].Kind != 7 || !slices.Equal(rows[2], []int{7}) {
 		t.Error("a function of models changes memory beyond the length of an argument")
 	}
+}
+
+func TestModelsAreNotChanged(t *testing.T) {
+	checkModelKept(t, func(m impl.Model, cells []int) {
+		for _, cells := range [][]int{cells, nil} {
+			impl.ModelValid(m)
+			impl.ModelSame(m, m)
+			impl.FormatModel(m)
+			impl.CellsValid(m, cells)
+			impl.RuleHolds(m, 1, cells)
+			impl.SolvesModel(m, cells)
+			impl.CountModel(m)
+			impl.NextModel(m, cells)
+		}
+	})
 }
 
 // parts returns all slices of numbers in a model.
