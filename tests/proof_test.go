@@ -665,8 +665,8 @@ func runSlowly(list []impl.Constraint, steps []impl.Step) (*slowRun, int) {
 	return run, -1
 }
 
-// trimSlowly looks for needed constraints until there are no more, and shares no code with TrimProof.
-func (run *slowRun) trimSlowly() ([]impl.Step, bool) {
+// neededSlowly looks for needed constraints until there are no more, and shares no code with TrimProof.
+func (run *slowRun) neededSlowly() (map[int]bool, bool) {
 	first := -1
 	for number, c := range run.all {
 		if first < 0 && !run.deleted[number] && impl.ConstraintFalse(c) {
@@ -693,6 +693,14 @@ func (run *slowRun) trimSlowly() ([]impl.Step, bool) {
 				}
 			}
 		}
+	}
+	return needed, true
+}
+
+func (run *slowRun) trimSlowly() ([]impl.Step, bool) {
+	needed, ok := run.neededSlowly()
+	if !ok {
+		return nil, false
 	}
 	return run.renumber(needed), true
 }
